@@ -90,57 +90,132 @@ func pooled[T any](values []T) []reflect.Value {
 	return pool
 }
 
-func poolOf(t *testing.T, kind reflect.Type) []reflect.Value {
-	switch reflect.Zero(kind).Interface().(type) {
-	case string:
-		return pooled(textPool)
-	case int64:
-		return pooled(numberPool)
-	case []int64:
-		return pooled(listPool)
-	case impl.Fraction:
-		return pooled(fractionPool)
-	case []impl.Fraction:
-		return pooled(fractionListPool)
+// argumentPools has the arguments of each type with which functions are called.
+type argumentPools map[reflect.Type][]reflect.Value
+
+func poolsOf(pools ...[]reflect.Value) argumentPools {
+	byType := argumentPools{}
+	for _, pool := range pools {
+		byType[pool[0].Type()] = pool
 	}
-	t.Fatalf("no arguments of the type %v", kind)
-	return nil
+	return byType
 }
 
-// freshArgument returns a copy of a value; a list that is not nil has spare capacity that is not empty.
+// freshArgument returns a copy of a value; each list in it that is not nil has spare capacity that is not empty.
 func freshArgument(value reflect.Value) reflect.Value {
-	if value.Kind() != reflect.Slice || value.IsNil() {
-		return value
+	switch {
+	case value.Kind() == reflect.Struct:
+		fresh := reflect.New(value.Type()).Elem()
+		for i := range value.NumField() {
+			fresh.Field(i).Set(freshArgument(value.Field(i)))
+		}
+		return fresh
+	case value.Kind() == reflect.Slice && !value.IsNil():
+		length := value.Len()
+		list := reflect.MakeSlice(value.Type(), length+spare, length+spare)
+		for i := range length {
+			list.Index(i).Set(freshArgument(value.Index(i)))
+		}
+		for i := length; i < length+spare; i++ {
+			list.Index(i).Set(filler(value.Type().Elem(), 41))
+		}
+		return list.Slice(0, length)
 	}
-	length := value.Len()
-	list := reflect.MakeSlice(value.Type(), length+spare, length+spare)
-	reflect.Copy(list, value)
-	fillList(list.Slice(length, length+spare), 41)
-	return list.Slice(0, length)
+	return value
 }
 
-// fillList overwrites all elements of a list of numbers or fractions.
-func fillList(list reflect.Value, n int64) {
-	for i := range list.Len() {
-		switch item := list.Index(i); item.Kind() {
-		case reflect.Int64:
-			item.SetInt(n)
-		case reflect.Struct:
-			item.Set(reflect.ValueOf(impl.Fraction{Num: n, Den: n}))
+// filler returns a value of a type of which each number is n.
+func filler(kind reflect.Type, n int64) reflect.Value {
+	value := reflect.New(kind).Elem()
+	if kind.Kind() == reflect.Slice {
+		value.Set(reflect.MakeSlice(kind, 2, 2))
+	}
+	fill(value, n)
+	return value
+}
+
+// fill overwrites all numbers of a value that can be, also those in the unused capacity of its lists.
+func fill(value reflect.Value, n int64) {
+	switch value.Kind() {
+	case reflect.Int64:
+		if value.CanSet() {
+			value.SetInt(n)
+		}
+	case reflect.Struct:
+		for i := range value.NumField() {
+			fill(value.Field(i), n)
+		}
+	case reflect.Slice:
+		list := value.Slice(0, value.Cap())
+		for i := range list.Len() {
+			fill(list.Index(i), n)
 		}
 	}
 }
 
-// showWhole returns values as a text, with the unused capacity of lists.
-func showWhole(values []reflect.Value) string {
-	all := make([]any, len(values))
+// wholeText returns a value as a text, with the unused capacity of its lists.
+func wholeText(value reflect.Value) string {
+	words := []string{}
+	switch value.Kind() {
+	case reflect.Struct:
+		for i := range value.NumField() {
+			words = append(words, wholeText(value.Field(i)))
+		}
+	case reflect.Slice:
+		list := value.Slice(0, value.Cap())
+		for i := range list.Len() {
+			words = append(words, wholeText(list.Index(i)))
+		}
+	default:
+		return show(value.Interface())
+	}
+	return "[" + strings.Join(words, " ") + "]"
+}
+
+// numberLists returns the lists of numbers in a value, with their unused capacity.
+func numberLists(value reflect.Value) [][]int64 {
+	var lists [][]int64
+	switch value.Kind() {
+	case reflect.Struct:
+		for i := range value.NumField() {
+			lists = append(lists, numberLists(value.Field(i))...)
+		}
+	case reflect.Slice:
+		if list, ok := value.Interface().([]int64); ok {
+			return [][]int64{list[:cap(list)]}
+		}
+		for i := range value.Len() {
+			lists = append(lists, numberLists(value.Index(i))...)
+		}
+	}
+	return lists
+}
+
+// canBeOverwritten overwrites each list of numbers in results with a number of its own, and reports whether all keep it.
+func canBeOverwritten(results []reflect.Value) bool {
+	var lists [][]int64
+	for _, result := range results {
+		lists = append(lists, numberLists(result)...)
+	}
+	for i, list := range lists {
+		fill(reflect.ValueOf(list), 43+int64(i))
+	}
+	for i, list := range lists {
+		for _, n := range list {
+			if n != 43+int64(i) {
+				return false
+			}
+		}
+	}
+	return true
+}
+
+func wholeTexts(values []reflect.Value) string {
+	texts := make([]string, len(values))
 	for i, value := range values {
-		if value.Kind() == reflect.Slice {
-			value = value.Slice(0, value.Cap())
-		}
-		all[i] = value.Interface()
+		texts[i] = wholeText(value)
 	}
-	return show(all...)
+	return strings.Join(texts, " ")
 }
 
 func showResults(results []reflect.Value) string {
@@ -157,9 +232,18 @@ func hasFailed(results []reflect.Value) bool {
 	return len(results) > 1 && last.Kind() == reflect.Bool && !last.Bool()
 }
 
+// isZero reports whether a result is a zero value; an empty list is one.
 func isZero(result reflect.Value) bool {
-	if result.Kind() == reflect.Slice {
+	switch result.Kind() {
+	case reflect.Slice:
 		return result.Len() == 0
+	case reflect.Struct:
+		for i := range result.NumField() {
+			if !isZero(result.Field(i)) {
+				return false
+			}
+		}
+		return true
 	}
 	return result.IsZero()
 }
@@ -172,7 +256,7 @@ func checkCall(t *testing.T, name string, function reflect.Value, values []refle
 		for i, value := range values {
 			arguments[i] = freshArgument(value)
 		}
-		before := showWhole(arguments)
+		before := wholeTexts(arguments)
 		results := function.Call(arguments)
 		shown := showResults(results)
 		if round == 0 {
@@ -185,32 +269,43 @@ func checkCall(t *testing.T, name string, function reflect.Value, values []refle
 			if hasFailed(results) && !isZero(result) {
 				t.Errorf("%s(%s): fails with %s: result %d is not zero", name, before, shown, i)
 			}
-			if result.Kind() == reflect.Slice {
-				fillList(result.Slice(0, result.Cap()), 43)
-			}
 		}
-		if after := showWhole(arguments); after != before {
+		if !canBeOverwritten(results) {
+			t.Errorf("%s(%s): two lists of %s share memory", name, before, shown)
+		}
+		if after := wholeTexts(arguments); after != before {
 			t.Errorf("%s(%s): the arguments have become %s", name, before, after)
 		}
 	}
 }
 
-func checkCalls(t *testing.T, name string, function reflect.Value, values []reflect.Value) {
+// checkCalls calls a function with all arguments of the pools.
+func checkCalls(t *testing.T, name string, function reflect.Value, pools argumentPools, values []reflect.Value) {
 	if len(values) == function.Type().NumIn() {
 		checkCall(t, name, function, values)
 		return
 	}
-	for _, value := range poolOf(t, function.Type().In(len(values))) {
-		checkCalls(t, name, function, append(values[:len(values):len(values)], value))
+	kind := function.Type().In(len(values))
+	if len(pools[kind]) == 0 {
+		t.Fatalf("no arguments of the type %v", kind)
+	}
+	for _, value := range pools[kind] {
+		checkCalls(t, name, function, pools, append(values[:len(values):len(values)], value))
+	}
+}
+
+func checkChapter(t *testing.T, functions map[string]any, pools argumentPools) {
+	for name, function := range functions {
+		t.Run(name, func(t *testing.T) {
+			t.Parallel()
+			checkCalls(t, name, reflect.ValueOf(function), pools, nil)
+		})
 	}
 }
 
 func TestPromise1Chapter1(t *testing.T) {
-	for name, function := range chapter1 {
-		t.Run(name, func(t *testing.T) {
-			checkCalls(t, name, reflect.ValueOf(function), nil)
-		})
-	}
+	checkChapter(t, chapter1, poolsOf(pooled(textPool), pooled(numberPool), pooled(listPool),
+		pooled(fractionPool), pooled(fractionListPool)))
 }
 
 func TestPromise1NilAndEmptyListsAreTheSame(t *testing.T) {
@@ -230,7 +325,7 @@ func TestPromise1ResultsShareNoMemory(t *testing.T) {
 		first, _ := get()
 		second, _ := get()
 		want := show(second)
-		fillList(reflect.ValueOf(first[:cap(first)]), 43)
+		fill(reflect.ValueOf(first), 43)
 		if got := show(second); got != want {
 			t.Errorf("a list has become %s instead of %s when another one was overwritten", got, want)
 		}
