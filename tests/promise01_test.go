@@ -1,6 +1,7 @@
 package tests
 
 import (
+	"fmt"
 	"math"
 	"reflect"
 	"strings"
@@ -124,7 +125,7 @@ func freshArgument(value reflect.Value) reflect.Value {
 	return value
 }
 
-// filler returns a value of a type of which each number is n.
+// filler returns a value of a type of which each number and each text is made from n.
 func filler(kind reflect.Type, n int64) reflect.Value {
 	value := reflect.New(kind).Elem()
 	if kind.Kind() == reflect.Slice {
@@ -134,12 +135,16 @@ func filler(kind reflect.Type, n int64) reflect.Value {
 	return value
 }
 
-// fill overwrites all numbers of a value that can be, also those in the unused capacity of its lists.
+// fill overwrites all numbers and texts of a value that can be, also those in the unused capacity of its lists.
 func fill(value reflect.Value, n int64) {
 	switch value.Kind() {
 	case reflect.Int64:
 		if value.CanSet() {
 			value.SetInt(n)
+		}
+	case reflect.String:
+		if value.CanSet() {
+			value.SetString(fmt.Sprint("text ", n))
 		}
 	case reflect.Struct:
 		for i := range value.NumField() {
@@ -172,39 +177,39 @@ func wholeText(value reflect.Value) string {
 	return "[" + strings.Join(words, " ") + "]"
 }
 
-// numberLists returns the lists of numbers in a value, with their unused capacity.
-func numberLists(value reflect.Value) [][]int64 {
-	var lists [][]int64
+// plainLists returns the lists in a value that have no lists in them.
+func plainLists(value reflect.Value) []reflect.Value {
+	var lists []reflect.Value
 	switch value.Kind() {
 	case reflect.Struct:
 		for i := range value.NumField() {
-			lists = append(lists, numberLists(value.Field(i))...)
+			lists = append(lists, plainLists(value.Field(i))...)
 		}
 	case reflect.Slice:
-		if list, ok := value.Interface().([]int64); ok {
-			return [][]int64{list[:cap(list)]}
+		if value.Type().Elem().Kind() != reflect.Slice {
+			return []reflect.Value{value}
 		}
 		for i := range value.Len() {
-			lists = append(lists, numberLists(value.Index(i))...)
+			lists = append(lists, plainLists(value.Index(i))...)
 		}
 	}
 	return lists
 }
 
-// canBeOverwritten overwrites each list of numbers in results with a number of its own, and reports whether all keep it.
+// canBeOverwritten overwrites each list in results with something of its own, and reports whether all keep it.
 func canBeOverwritten(results []reflect.Value) bool {
-	var lists [][]int64
+	var lists []reflect.Value
 	for _, result := range results {
-		lists = append(lists, numberLists(result)...)
+		lists = append(lists, plainLists(result)...)
+	}
+	filled := make([]string, len(lists))
+	for i, list := range lists {
+		fill(list, 43+int64(i))
+		filled[i] = wholeText(list)
 	}
 	for i, list := range lists {
-		fill(reflect.ValueOf(list), 43+int64(i))
-	}
-	for i, list := range lists {
-		for _, n := range list {
-			if n != 43+int64(i) {
-				return false
-			}
+		if wholeText(list) != filled[i] {
+			return false
 		}
 	}
 	return true
